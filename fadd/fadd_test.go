@@ -219,9 +219,12 @@ func TestAddAsTheMachine(t *testing.T) {
 
 // P7.2: in any order a sum is the same.
 func TestOrder(t *testing.T) {
-	s := source(3)
-	for range 100000 {
+	s, e := source(3), edges()
+	for i := range 100000 {
 		a, b := s.pair()
+		if i%10 == 0 {
+			a, b = e[s.below(len(e))], e[s.below(len(e))]
+		}
 		mode := modes[s.below(len(modes))]
 		got, flags := Add(a, b, mode)
 		turned, turnedFlags := Add(b, a, mode)

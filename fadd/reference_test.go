@@ -19,9 +19,6 @@ const (
 	over = api.Inexact | api.Overflow
 )
 
-// signs are both.
-var signs = []bool{false, true}
-
 // modes are the directions, and others, which count as 0.
 var modes = []int{0, 1, 2, 3, 4, -1, 5, -4, 256, 1 << 32, math.MinInt, math.MaxInt}
 
@@ -132,9 +129,8 @@ func (s *source) near(a uint64, n int) uint64 {
 	return s.next()&sign | s.fraction() | uint64(min(max(e, 0), 2046))<<52
 }
 
-func isNaN(a uint64) bool  { return a&^sign > inf }
-func isInf(a uint64) bool  { return a&^sign == inf }
-func isZero(a uint64) bool { return a&^sign == 0 }
+func isNaN(a uint64) bool { return a&^sign > inf }
+func isInf(a uint64) bool { return a&^sign == inf }
 
 // units is how many times 2^-1074 a finite number is.
 func units(a uint64) *big.Int {

@@ -295,6 +295,11 @@ func TestValueErrors(t *testing.T) {
 		holdValue(t, api.Bound{E: even, G: api.Dyadic{}}, api.Dyadic{}, good, wide, api.Dyadic{}, api.OK)
 	}
 	holdValue(t, api.Bound{E: good, G: far}, dyad(0, 1), good, true, api.Dyadic{}, api.ErrRange)
+	bad := dyad(api.MaxExp+1, 1)
+	holdValue(t, api.Bound{E: bad, G: far}, dyad(0, 1), dyad(0, 1), true, api.Dyadic{}, api.ErrState)
+	holdValue(t, api.Bound{E: far, G: bad}, far, far, false, api.Dyadic{}, api.ErrState)
+	holdValue(t, api.Bound{E: far, G: good}, far, bad, false, api.Dyadic{}, api.ErrState)
+	holdValue(t, api.Bound{E: far, G: far}, bad, far, true, api.Dyadic{}, api.ErrState)
 	holdValue(t, api.Bound{E: api.Dyadic{}, G: far}, far, far, false, far, api.OK)
 }
 

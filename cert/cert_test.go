@@ -79,7 +79,7 @@ func TestProduct(t *testing.T) {
 		t.Error("P36.1: of the least numbers the product is not 0, or the least")
 	}
 	s := source(1)
-	for _, x := range [][3]int{{1, 1, 1}, {2, 2, 2}, {3, 3, 3}, {5, 5, 5}, {8, 8, 8}, {1, 5, 2}, {5, 3, 8}, {7, 2, 3}} {
+	for _, x := range [][3]int{{1, 1, 1}, {2, 2, 2}, {3, 3, 3}, {5, 5, 5}, {8, 8, 8}, {1, 5, 2}, {5, 3, 8}, {7, 2, 3}, {5, 4, 1}, {1, 4, 5}, {4, 5, 2}} {
 		for _, c := range []int{1, 2, 3, 64, math.MaxInt} {
 			for _, e := range []int{0, -500, -1000, 400} {
 				a, b := s.sized(x[0], x[1], e), s.sized(x[1], x[2], s.below(2)*e)

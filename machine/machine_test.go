@@ -531,9 +531,7 @@ func TestMemory(t *testing.T) {
 	report := m.Report()
 	bound, off := slices.Clone(report.Bound.Abs), slices.Clone(report.Off.Abs)
 	for _, l := range [][]uint64{m.Report().Bound.Abs, m.Report().Off.Abs, report.Bound.Abs, report.Off.Abs} {
-		for k := range l {
-			l[k] = ^l[k]
-		}
+		clear(l)
 	}
 	if now := m.Report(); !slices.Equal(now.Bound.Abs, bound) || !slices.Equal(now.Off.Abs, off) || len(bound) == 0 || len(off) == 0 {
 		t.Errorf("P38.3: the report is shared: %v", now)

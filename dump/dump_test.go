@@ -246,7 +246,7 @@ func TestReadErrors(t *testing.T) {
 		}
 	}
 	for _, s := range []string{
-		"", "\n", "\n\n", " \n", "1p0", "1p0 1p0", "1p0\n1p0", "1p0\n\n", "\n1p0\n", "1p0\n\n1p0\n", "1p0  1p0\n", " 1p0\n", "1p0 \n", "1p0 1p0 \n", "1p0 1p0\n1p0 \n", "1p0\n \n", "1p0\n1p0 1p0\n", "1p0 1p0\n1p0\n", "1p0 1p0\n1p0 1p0 1p0\n",
+		"", "\n", "\n\n", " \n", "1p0", "1p0 1p0", "1p0\n1p0", "1p0\n\n", "\n1p0\n", "1p0\n\n1p0\n", "1p0  1p0\n", " 1p0\n", "1p0 \n", "1p0 1p0 \n", "1p0 1p0\n1p0 \n", "1p0\n \n", "1p0\n1p0 1p0\n", "1p0 1p0\n1p0\n", "1p0 1p0\n1p0 1p0 1p0\n", "0\n0 0 0\n0 0\n", "0 0 0\n0\n0 0\n",
 		"1p0\t1p0\n", "1p0\r\n", "1p0\n ", "1p0\n\x00", "1p0,1p0\n", "2p0\n", "1p0 2p0\n", "-nan\n", "1p0 \n1p0 1p0\n", "1p0\v\n", "+0\n", "1p0\u00a01p0\n", "0 0\n0 0\n0 -\n",
 		strings.Repeat("0 ", 64) + "0\n", strings.Repeat("0\n", 65), strings.Repeat(strings.Repeat("0 ", 64)+"0\n", 65), strings.Repeat("0\n", 32768), strings.Repeat("0 ", 32767) + "0\n",
 		strings.Repeat("\n", 65536), strings.Repeat(" ", 65536), strings.Repeat("0", 65535) + "\n",

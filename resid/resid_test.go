@@ -61,6 +61,29 @@ func TestTimes(t *testing.T) {
 	hold(mat(1, 2, one, one), mat(2, 1, one, sign|one), []api.Dyadic{zero}, api.OK)
 	hold(mat(1, 1, sign), mat(1, 2, one, sign|one), []api.Dyadic{zero, zero}, api.OK)
 	hold(mat(1, 2, great, 1), mat(2, 1, great, 1), []api.Dyadic{dyadicOf(sum(mul(exactly(great), exactly(great)), mul(exactly(1), exactly(1))))}, api.OK)
+	// The longest sums of the greatest ones, and of the least.
+	for _, x := range []uint64{great, 1, least} {
+		square := mul(exactly(x), exactly(x))
+		hold(filled(1, 64, x), filled(64, 1, x), []api.Dyadic{dyadicOf(mul(square, whole(64)))}, api.OK)
+		hold(filled(1, 64, sign|x), filled(64, 1, x), []api.Dyadic{dyadicOf(mul(square, whole(-64)))}, api.OK)
+		half := filled(1, 64, x)
+		for k := range 32 {
+			half.Data[2*k] |= sign
+		}
+		hold(half, filled(64, 1, x), []api.Dyadic{zero}, api.OK)
+	}
+	// 2^53 less 1 times 2^53 to each power: ones only, and one at the end makes it a
+	// power of two, wherever that is.
+	for _, from := range []int{-1074, -1073, -1050, -1022, -1000, -777, -64, 0, 11} {
+		for _, x := range []uint64{0, sign} {
+			run := mat(1, 19)
+			for k := range 18 {
+				run.Data = append(run.Data, x|of(math.Ldexp(1<<53-1, from+53*k)))
+			}
+			run.Data = append(run.Data, x|power(from))
+			hold(run, filled(19, 1, one), []api.Dyadic{{Neg: x == sign, Abs: []uint64{1}, Exp: from + 18*53}}, api.OK)
+		}
+	}
 	s := source(2)
 	for _, x := range sides {
 		for _, make := range kinds(&s) {
